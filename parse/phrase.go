@@ -68,7 +68,7 @@ func (p *parser) bind() int {
 func (p *parser) loop() int {
 	own := p.sign("loop")
 	p.sign("(")
-	kids := p.list(",", p.init)
+	kids := p.list(",", p.initial)
 	inits := len(kids)
 	p.sign(")")
 	p.sign("while")
@@ -82,7 +82,7 @@ func (p *parser) loop() int {
 	return p.add(api.TreeNode{Kind: api.LoopNode, N: inits, Kids: kids, At: own.At})
 }
 
-func (p *parser) init() int {
+func (p *parser) initial() int {
 	own := p.name()
 	p.sign(":=")
 	kids := []int{p.expr()}
