@@ -42,5 +42,4 @@ func TestRandom(t *testing.T) {
 			t.Error(what, many[what])
 		}
 	}
-	t.Log(many)
 }
