@@ -77,6 +77,19 @@ func TestUnused(t *testing.T) {
 		{main("int", "a ^= 1; s: stream int = 5 :: a :: s; give head(s)"), nothing()},
 		{on("int", "a = head(s); b ^= 1; give if a == 1 { give b } else { give a }"), open()},
 		{on("int", "a = head(s); b = 1; give if a == 1 { give b } else { give a }"), open(1)},
+		// What is asked for of what is blighted: all kids of most nodes, of others so many as must be.
+		{on("bool", "a = head(s) == 1; b = true; give 1 / 0 == 0 or a == b"), open()},
+		{on("bool", "a = head(s) == 1; b = true; give 1 / 0 == 0 or b != a"), open()},
+		{on("bool", "a = head(s) == 1; b ^= true; give 1 / 0 == 0 or (a or b)"), open()},
+		{on("bool", "a = head(s) == 1; b = true; give 1 / 0 == 0 or (b or a)"), open()},
+		{on("bool", "a = head(s) == 1; b ^= true; give 1 / 0 == 0 or (a and b)"), open()},
+		{on("bool", "a ^= head(s) == 1; b = true; give 1 / 0 == 0 or (b and a)"), open()},
+		{on("int", "a = head(s); b ^= 1; c ^= 1; give if 1 / 0 == 0 { give b } else { give if a == 1 { give b } else { give c } }"), open()},
+		{on("int", "a = head(s); b ^= 1; c = 1; give if 1 / 0 == 0 { give b } else { give if a == 1 { give b } else { give c } }"), open(1)},
+		{on("int", "a = 1; b ^= 1; c ^= 1; give if 1 / 0 == 0 { give b } else { give array(a) { [i in 0..# - 1] = b }[f(c)] }") + " def f(n: int) -> int { give n }", open()},
+		{on("int", "a = array(2) { [i in 0..# - 1] = i }; b = 1; c ^= 1; give if 1 / 0 == 0 { give 1 } else { give a[b] + head(c :: nil(int)) }"), open()},
+		{on("int", "a ^= 0; b ^= true; c ^= 1; give if 1 / 0 == 0 { give 1 } else { give loop(i := a) while b do { } give(i + c) }"), open()},
+		{on("int, int", "a = head(s); b ^= 1; c = 1; x, y = if 1 / 0 == 0 { give 1, 2 } else { give b, c + a }; give y, y"), open()},
 	} {
 		y, nodes := marked(t, x.s)
 		if l, e := need.Unused(y, x.in); !slices.Equal(l, nodes) || e != api.OK {
